@@ -184,6 +184,7 @@ func TestTypesOfManySameParts(t *testing.T) {
 		"val x = (1, 1) " + strings.Repeat("val y = (x, x) val x = (y, y) val _ = [x, (y, y)] ", 100) + "in 1",
 		"val x = ref [] " + strings.Repeat("val x = (x, x) ", 300) + "in 1",
 		"val x = (1, 1) val y = (1, 1) " + strings.Repeat("val x = (x, x) val y = (y, y) ", 100) + "in [x, y]; 1",
+		"fun f x = let " + strings.Repeat("val x = (x, x) ", 200) + "in x end in (f 1; f \"\"; 1)",
 		"fn x => let " + strings.Repeat("val x = (x, x) ", 200) + "val f = fn y => (x, y) in (f 1; f \"\"; 1) end",
 	} {
 		if p, f, at := Elab(read(t, src)); f != api.OK || at != 0 || p.Main.T.Kind == 0 {

@@ -158,3 +158,15 @@ func TestLetsWithoutNeed(t *testing.T) {
 		t.Error("too few", done)
 	}
 }
+
+// The examples of the chapter and of the document.
+func TestExamples(t *testing.T) {
+	has(t, "(int * string)", "fun id x = x in (id 1, id \"a\")")
+	has(t, "(int * bool)", "fun id x = x in (id 1, id true)")
+	has(t, "() list ref", "val r = ref [] in r")
+	has(t, "int list ref", "val r = ref [] in (r := [1]; r)")
+	has(t, "()", "putc 65", "fun f n = if n = 0 then () else (putc (64 + n); f (n - 1)) in f 3")
+	has(t, "int", "1 div 0", "(1 div 0) handle Div => 2", "case [1, 2] of [] => 0 | x :: _ => x")
+	illTyped(t, "fn x => x x", "case 1 of 0 => 1", "1 + true", "val r = ref [] in (r := [1]; r := [\"a\"])", "case [1, 2] of x :: _ => x")
+	unknownAt(t, "@x")
+}
