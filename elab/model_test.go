@@ -11,7 +11,7 @@ import (
 
 // This is the chapter read once more, by other means: names by sets that are copied, types by substitutions, what stands around by looking at all of it, ways by trying values.
 
-// at is thrown where a name isn't known, or is there twice; illTypedModel where there are no types.
+// unknownName is thrown where a name isn't known, or is there twice; noTypes where there are no types.
 type unknownName int
 type noTypes struct{}
 

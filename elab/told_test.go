@@ -152,7 +152,7 @@ func read(t testing.TB, src string) api.Exp {
 	return e
 }
 
-// made is what Elab answers of a text that has types, which must be sound.
+// elaborated is what Elab answers of a text that has types, which must be sound.
 func elaborated(t testing.TB, src string) api.Prog {
 	t.Helper()
 	p, f, at := Elab(read(t, src))
@@ -198,7 +198,7 @@ func illTyped(t testing.TB, texts ...string) {
 	}
 }
 
-// unknownAt looks that a text is refused for its names: src has a | ahead of the place.
+// unknownAt looks that a text is refused for its names: an @ stands ahead of the place.
 func unknownAt(t testing.TB, texts ...string) {
 	t.Helper()
 	for _, src := range texts {
