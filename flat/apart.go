@@ -9,9 +9,10 @@ import (
 
 // switches looks at what is needed of the whole, till it is known which way fits first. Where the same would be written again and again, so that all of it is too much, it is written by itself, once, and jumped to; where that is too much, too, each way is looked at by itself.
 func (m *matching) switches() api.Flat {
+	m.most = m.w.most[0] + m.size
 	e := m.first(m.rests(m.ways))
 	if m.spent > m.most {
-		m.spent, m.apart = 0, &apart{found: map[string]int{}}
+		m.spent, m.most, m.apart = 0, m.w.most[1]+m.size, &apart{found: map[string]int{}}
 		e = m.apart.around(m, m.first(m.rests(m.ways)))
 	}
 	if m.spent > m.most {
@@ -88,7 +89,7 @@ func (a *apart) around(m *matching, e api.Flat) api.Flat {
 	return e
 }
 
-// needed are the places that are bound, of which, or of whose parts, something may still be asked, or is a variable of some ways.
+// needed are the places that are bound, of which, or of whose parts, something may still be asked, or is a variable of some ways; and what may be thrown on.
 func (m *matching) needed(l []rest) []*place {
 	var all []*place
 	met := map[int]int{}
@@ -100,6 +101,9 @@ func (m *matching) needed(l []rest) []*place {
 			all = append(all, p)
 			met[p.n] = len(all)
 		}
+	}
+	if m.thrown != nil {
+		need(m.thrown)
 	}
 	for _, r := range l {
 		for _, p := range r.asks {

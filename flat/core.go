@@ -6,7 +6,8 @@ import "bellows/api"
 type writer struct {
 	standing
 	next int         // no variable has this number, or a greater one
-	vars map[int]int // the types of variables that are bound, in one function
+	lets map[int]int // the types of variables that are bound by an LLet, in one function
+	most [2]int      // how much may be written of any ways, and how much where it isn't written twice
 }
 
 // number is a new one, for a variable or a label.
@@ -17,20 +18,13 @@ func (w *writer) number() int {
 
 func (w *writer) function(f *api.FFun) api.FlatFun {
 	params := each(f.Params, func(p *api.Param) api.Slot { return api.Slot{Id: p.Id, Ty: w.of(&p.T)} })
-	return api.FlatFun{Id: f.Id, Params: params, Result: w.of(&f.Result), E: w.body(params, &f.E)}
+	return api.FlatFun{Id: f.Id, Params: params, Result: w.of(&f.Result), E: w.body(&f.E)}
 }
 
-// body is what a function does, which knows its parameters alone.
-func (w *writer) body(params []api.Slot, e *api.Core) api.Flat {
-	w.vars = map[int]int{}
-	w.bind(params)
+// body is what a function does.
+func (w *writer) body(e *api.Core) api.Flat {
+	w.lets = map[int]int{}
 	return w.core(e)
-}
-
-func (w *writer) bind(params []api.Slot) {
-	for _, v := range params {
-		w.vars[v.Id] = v.Ty
-	}
 }
 
 func (w *writer) core(c *api.Core) api.Flat {
@@ -78,9 +72,9 @@ func only(l []api.Core) *api.Core {
 	return &l[0]
 }
 
-// variable has the type of what was bound, which may be less than the variable's type in the program.
+// variable has the type of what was bound by an LLet, which may be less than what the variable's type in the program says.
 func (w *writer) variable(c *api.Core) api.Flat {
-	ty, is := w.vars[c.Id]
+	ty, is := w.lets[c.Id]
 	if !is {
 		ty = w.of(&c.T)
 	}
@@ -91,7 +85,7 @@ func (w *writer) let(c *api.Core) api.Flat {
 	var es []api.Flat
 	for i := range c.Funs {
 		e := w.core(&c.Funs[i].E)
-		w.vars[c.Funs[i].Id] = e.Ty
+		w.lets[c.Funs[i].Id] = e.Ty
 		es = append(es, e)
 	}
 	then := w.core(only(c.L))

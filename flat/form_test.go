@@ -55,6 +55,8 @@ func TestCoresBecomeFlat(t *testing.T) {
 		{"exception A exception B of int exception A of int * int exception C in (A, B 1, A, C)", "S1(0, S2(1), 1, 5); f1(a: S3): #|S2|S4 = let b = a in S4(b.0, b.1); f2(c: S3): #|S2|S4 = let d = c in S4(d.0, d.1); S1 = (#, #|S2|S4, #, #|S2|S4); S2 = (#)B; S3 = (#, #); S4 = (#, #)A"},
 		{"exception A exception B of int in B 2", "S1(2); S1 = (#)B"},
 		{"exception Div exception Match of int in (Div, Match 1)", "S1(4, S2(1)); S1 = (#|S2, #|S2); S2 = (#)Match"},
+		{"datatype t = A of exn exception E of t in (A Div, E (A Size))", "S1(S2(1), S3(S2(3))); S1 = (S2, #|S3); S2 = (#|S3); S3 = (S2)E"},
+		{"datatype t = A of exn exception E of int in (A Div, E 1)", "S1(1, S2(1)); S1 = (#|S2, #|S2); S2 = (#)E"},
 		{"ref 1", "S1(1); S1 = (#)"},
 		{"ref (1, 2)", "S1(S2(1, 2)); S1 = (S2); S2 = (#, #)"},
 		{"(ref 1, ref 2, ref \"a\", ref (ref 1))", "S1(S2(1), S2(2), S3(\"a\"), S4(S2(1))); S1 = (S2, S2, S3, S4); S2 = (#); S3 = ($); S4 = (S2)"},
@@ -110,5 +112,38 @@ func TestFunctionsStayInOrder(t *testing.T) {
 	}
 	if f := x.Funs[1]; len(f.Params) != 2 || f.Params[0] != (api.Slot{Id: 1, Ty: 0}) || f.Params[1] != (api.Slot{Id: 2, Ty: 1}) || f.Result != 0 {
 		t.Errorf("%+v", f)
+	}
+}
+
+// greatest are programs in which the greatest number stands at one place alone.
+func greatest(n int) map[string]api.FProg {
+	num := xcon("int")
+	main := func(c api.Core) api.FProg { return api.FProg{Datas: basic(), Main: c} }
+	pair := api.Core{Kind: api.KTuple, T: xtup(num, num), L: []api.Core{number1(), number1()}}
+	apart := func(id int) api.Core {
+		return caseOf(pair, api.Way{P: tuplePat(intPat(1), api.CPat{Kind: api.PVar, Id: id, T: num}), E: varOf(id, num)}, api.Way{P: anyPat(pair.T), E: number1()})
+	}
+	f := api.FFun{Id: 0, Result: num, E: apart(1), Params: []api.Param{{Id: n, T: num}}}
+	call := api.Core{Kind: api.KCall, Id: 0, T: num, L: []api.Core{number1()}}
+	way := []api.Way{{P: anyPat(xcon("exn")), E: apart(1)}}
+	let := api.Core{Kind: api.KLet, T: num, Funs: []api.CoreFun{{Id: n, T: num, E: number1()}}, L: []api.Core{apart(1)}}
+	none := api.FFun{Id: 0, Result: num, E: number1()}
+	call0 := api.Core{Kind: api.KCall, Id: 0, T: num}
+	return map[string]api.FProg{
+		"a pattern's variable": main(apart(n)),
+		"a parameter":          {Datas: basic(), Funs: []api.FFun{f}, Main: call},
+		"a let":                main(let),
+		"a handle":             {Datas: basic(), Funs: []api.FFun{none}, Main: api.Core{Kind: api.KHandle, Id: n, T: num, L: []api.Core{call0}, Ways: way}},
+	}
+}
+
+// P12.4: variables that are bound to parts are others than all of the program, whichever has the greatest number.
+func TestNewVariablesAreOthers(t *testing.T) {
+	for n := range 12 {
+		for name, p := range greatest(n + 2) {
+			x := Flatten(p)
+			paired(t, name, p, x, nil)
+			sound(t, name, x)
+		}
 	}
 }

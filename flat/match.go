@@ -12,10 +12,12 @@ type matching struct {
 	w      *writer
 	ty     int // of what all of it gives
 	ways   []*way
-	none   func() api.Flat // what is done where no way fits
+	thrown *place          // what is thrown on where no way fits
+	none   func() api.Flat // what is done there
 	places int
-	spent  int // how much was written
-	most   int
+	size   int    // how much there is of patterns, and of what they ask
+	spent  int    // how much was written
+	most   int    // how much may be
 	apart  *apart // what is written by itself, if anything is
 }
 
@@ -40,45 +42,40 @@ type rest struct {
 	left int // how much isn't
 }
 
-// fewest is how much may be written of any ways, whatever their number.
-const fewest = 1 << 14
-
-// cased is a KCase: what is looked at is bound to a variable.
+// cased is a KCase: what is looked at is bound to a variable. (No program that Defun answers comes to where no way fits.)
 func (w *writer) cased(c *api.Core) api.Flat {
 	e := w.core(only(c.L))
 	whole := &place{bound: true, id: w.number(), ty: e.Ty}
-	return let(whole.id, e, w.match(whole, c, func() api.Flat {
-		return raised(w.of(&c.T), number(api.ExnMatch)) // no program that Defun answers comes to this
-	}))
+	m := &matching{w: w, ty: w.of(&c.T)}
+	m.none = func() api.Flat { return raised(m.ty, number(api.ExnMatch)) }
+	return let(whole.id, e, m.match(whole, c.Ways))
 }
 
 // handle is a KHandle: what no way fits is thrown on.
 func (w *writer) handle(c *api.Core) api.Flat {
 	e := w.core(only(c.L))
-	w.vars[c.Id] = w.exn
 	whole := &place{bound: true, id: c.Id, ty: w.exn}
-	ways := w.match(whole, c, func() api.Flat { return raised(w.of(&c.T), variable(whole.id, whole.ty)) })
-	return api.Flat{Kind: api.LHandle, Id: c.Id, Ty: w.of(&c.T), L: []api.Flat{e, ways}}
+	m := &matching{w: w, ty: w.of(&c.T), thrown: whole}
+	m.none = func() api.Flat { return raised(m.ty, variable(whole.id, whole.ty)) }
+	return api.Flat{Kind: api.LHandle, Id: c.Id, Ty: m.ty, L: []api.Flat{e, m.match(whole, c.Ways)}}
 }
 
 func raised(ty int, e api.Flat) api.Flat {
 	return api.Flat{Kind: api.LRaise, Ty: ty, L: []api.Flat{e}}
 }
 
-// match is the ways of c, of what is bound to a variable.
-func (w *writer) match(whole *place, c *api.Core, none func() api.Flat) api.Flat {
-	m := &matching{w: w, ty: w.of(&c.T), none: none, most: fewest}
-	for i := range c.Ways {
-		x := &way{n: i, label: w.number()}
+// match is some ways, of what is bound to a variable.
+func (m *matching) match(whole *place, ways []api.Way) api.Flat {
+	for i := range ways {
+		x := &way{n: i, label: m.w.number()}
 		m.ways = append(m.ways, x)
-		m.open(&c.Ways[i].P, whole, x)
+		m.open(&ways[i].P, whole, x)
 	}
 	e := m.switches()
 	for i := len(m.ways) - 1; i >= 0; i-- {
 		x := m.ways[i]
 		params := each(x.vars, func(v *bound) api.Slot { return api.Slot{Id: v.id, Ty: v.ty} })
-		w.bind(params)
-		e = m.join(x.label, params, w.core(&c.Ways[i].E), e)
+		e = m.join(x.label, params, m.w.core(&ways[i].E), e)
 	}
 	return e
 }
@@ -94,7 +91,7 @@ func (m *matching) jump(label int, l []api.Flat) api.Flat {
 
 // open finds what a pattern asks of what stands at a place.
 func (m *matching) open(c *api.CPat, p *place, x *way) {
-	m.most += 16
+	m.size += 16
 	k := m.w.cons[c.Name]
 	switch {
 	case c.Kind == api.PVar:
@@ -137,18 +134,21 @@ func (m *matching) openCon(c *api.CPat, k *con, p *place, x *way) {
 		return
 	}
 	if len(k.of.cons) > 1 {
-		m.most += len(k.of.shapes)
+		m.size += len(k.of.shapes)
 		m.ask(p, k.of, head{shape: k.has, n: int64(k.n)}, x)
 	}
-	switch l := []*place(nil); {
-	case !has:
-	case isTuple(k.arg):
-		l = m.inside(p, k.n)
-		m.open(&c.L[0], &place{tuple: l}, x)
-	default:
-		l = m.inside(p, k.n)
-		m.open(&c.L[0], l[0], x)
+	if has {
+		m.open(&c.L[0], m.what(p, k), x)
 	}
+}
+
+// what is the place of what a constructor's Record has.
+func (m *matching) what(p *place, k *con) *place {
+	l := m.inside(p, k.n)
+	if isTuple(k.arg) {
+		return &place{tuple: l}
+	}
+	return l[0]
 }
 
 // first finds the first one of some ways that fits.

@@ -34,11 +34,11 @@ type data struct {
 
 // con is a constructor: the number that it is, or the shape of its Record.
 type con struct {
-	of      *data
-	has     bool
-	arg     *api.T // what it has
-	n       int
-	excName string
+	of        *data
+	has       bool
+	arg       *api.T // what it has
+	n         int
+	exception string
 }
 
 func newStanding(datas []api.Data) standing {
@@ -72,7 +72,7 @@ func (s *standing) newData(x *api.Data, first bool) *data {
 			d.numbers++
 		}
 		if first {
-			k.excName = declared(c.Name)
+			k.exception = declared(c.Name)
 		}
 		d.cons = append(d.cons, k)
 		if s.cons[c.Name] == nil {
@@ -161,7 +161,7 @@ func (s *standing) data(d *data) int {
 	}
 	for _, k := range d.cons {
 		if k.has {
-			k.n = s.shape(api.Shape{Kind: api.Record, Name: k.excName})
+			k.n = s.shape(api.Shape{Kind: api.Record, Name: k.exception})
 			d.shapes = append(d.shapes, k.n)
 		}
 	}

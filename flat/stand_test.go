@@ -131,3 +131,16 @@ func TestOrderIsWhatStands(t *testing.T) {
 		}
 	}
 }
+
+// P12.1: types whose lists stand one in the other in memory are still different ones.
+func TestListsThatShareRoom(t *testing.T) {
+	l := []api.T{xcon("int"), xcon("string"), xcon("int")}
+	k := api.Core{Kind: api.KTuple, T: xtup(xtup(l[:2]...), xtup(l...), xtup(l[1:]...)), L: []api.Core{varOf(1, xtup(l[:2]...)), varOf(2, xtup(l...)), varOf(3, xtup(l[1:]...))}}
+	for i, want := range [][]int{{0, 1}, {0, 1, 0}, {1, 0}} {
+		x := Flatten(api.FProg{Datas: basic(), Main: k})
+		s := x.Shapes[x.Types[x.Main.L[i].Ty].Shapes[0]]
+		if !reflect.DeepEqual(s.Fields, want) {
+			t.Error(i, s)
+		}
+	}
+}

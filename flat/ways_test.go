@@ -89,7 +89,8 @@ func (w *walk) flat(x *api.Flat) {
 		w.apart[x.Id] = x
 		w.flat(&x.L[1])
 	case api.LRaise:
-		w.must(w.k.Kind == api.KHandle && x.L[0].Kind == api.LVar && x.L[0].Id == w.k.Id, "what is raised", x)
+		w.must(w.k.Kind == api.KHandle && x.L[0].Kind == api.LVar && w.vars[x.L[0].Id] == ".", "what is raised", x)
+		w.used[x.L[0].Id] = true
 		for i := range w.k.Ways {
 			w.must(w.fits(&w.k.Ways[i].P, ".") == no, "a way that fits", i)
 		}
@@ -194,6 +195,9 @@ func (w *walk) arms(x *api.Flat, p *api.CPat, place string) {
 		w.must(x.Nums[i].N != x.Nums[i+1].N, "a number twice", x)
 	}
 	w.c.count["switches of "+strconv.Itoa(min(len(x.Nums), 2))+" numbers, "+strconv.Itoa(min(len(x.Shapes), 2))+" shapes, "+strconv.Itoa(len(x.L)-1)+" other"]++
+	for _, a := range x.Nums {
+		w.must(w.named(fact{n: a.N}, place), "a number without need", a.N)
+	}
 	if p.Kind == api.PInt {
 		w.must(len(x.Shapes) == 0 && len(x.Nums) > 0 && len(x.L) == 2, "a switch on an int", x)
 		return
@@ -213,6 +217,36 @@ func (w *walk) arms(x *api.Flat, p *api.CPat, place string) {
 	}
 	w.must((len(x.L) == 2) == (len(x.Nums) < numbersOf(d)), "whether there is an else", x)
 	w.must(len(d.Cons) > 1, "a switch without need", d)
+}
+
+// named: does a way that may be the first one that fits ask whether a place is that?
+func (w *walk) named(f fact, place string) bool {
+	w.known[place] = f
+	defer delete(w.known, place)
+	for i := range w.k.Ways {
+		p := &w.k.Ways[i].P
+		is := w.fits(p, ".")
+		if is != no && w.asksFor(p, ".", place) {
+			return true
+		}
+		if is == yes {
+			return false
+		}
+	}
+	return false
+}
+
+// asksFor: does the pattern ask what stands at a place?
+func (w *walk) asksFor(p *api.CPat, at, place string) bool {
+	if at == place && (p.Kind == api.PInt || p.Kind == api.PCon && !w.c.through(w.c.cons[p.Name].all)) {
+		return true
+	}
+	for i := range p.L {
+		if w.asksFor(&p.L[i], w.inside(p, at, i), place) {
+			return true
+		}
+	}
+	return false
 }
 
 // jump is an end: the first way that fits.
