@@ -2,17 +2,15 @@ package flat
 
 import "bellows/api"
 
-// above is the least number that is above those of all variables and functions of a program.
+// above is a number that is above those of all variables of a program.
 func above(p *api.FProg) int {
 	next := 0
 	see := func(id int) { next = max(next, id+1) }
 	for i := range p.Funs {
-		f := &p.Funs[i]
-		see(f.Id)
-		for _, v := range f.Params {
+		for _, v := range p.Funs[i].Params {
 			see(v.Id)
 		}
-		ids(&f.E, see)
+		ids(&p.Funs[i].E, see)
 	}
 	ids(&p.Main, see)
 	return next

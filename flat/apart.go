@@ -29,13 +29,11 @@ func (m *matching) rests(l []*way) []rest {
 // oneByOne looks at each way by itself: where it doesn't fit there is a jump to the next one.
 func (m *matching) oneByOne() api.Flat {
 	e := m.none()
-	none := m.none
 	for i := len(m.ways) - 1; i >= 0; i-- {
 		label := m.w.number()
 		m.none = func() api.Flat { return m.jump(label, nil) }
 		e = m.join(label, nil, e, m.first(m.rests(m.ways[i:i+1])))
 	}
-	m.none = none
 	return e
 }
 

@@ -147,3 +147,25 @@ func TestNewVariablesAreOthers(t *testing.T) {
 		}
 	}
 }
+
+// P12.5: a variable has the same number in several functions, where it may have been bound to less than its type.
+func TestVariablesOfSeveralFunctions(t *testing.T) {
+	num := xcon("int")
+	list := xcon("l")
+	data := api.Data{Name: "l", Cons: []api.DataCon{{Name: "N"}, {Name: "C", Has: true, Arg: xtup(num, list)}}}
+	x := varOf(1, list)
+	nothing := api.Core{Kind: api.KCon, Name: "N", T: list}
+	call := api.Core{Kind: api.KCall, Id: 2, T: list, L: []api.Core{x}}
+	f := api.FFun{Id: 2, Params: []api.Param{{Id: 1, T: list}}, Result: list, E: x}
+	let := api.Core{Kind: api.KLet, T: list, Funs: []api.CoreFun{{Id: 1, T: list, E: nothing}}, L: []api.Core{call}}
+	g := api.FFun{Id: 3, Result: list, E: let}
+	for _, funs := range [][]api.FFun{{f, g}, {g, f}} {
+		p := api.FProg{Datas: basic(data), Funs: funs, Main: let}
+		x := Flatten(p)
+		paired(t, "two functions", p, x, nil)
+		sound(t, "two functions", x)
+		if e := x.Main.L[1].L[0]; e.Kind != api.LVar || e.Ty != 0 {
+			t.Errorf("%+v", e)
+		}
+	}
+}
