@@ -45,9 +45,9 @@ func (s *standing) read(k *con) int {
 // rounds are those of n things from which a way leads, by way of others, back to themselves; next visits what a thing leads to.
 func rounds(n int, next func(at int, visit func(to int))) []bool {
 	round := make([]bool, n)
-	met := make([]int, n)  // the when of things, from 1 on; 0: not met
-	back := make([]int, n) // the first one met to which a way leads; 0: all is known
-	var open []int
+	met := make([]int, n)  // as which one each was met, from 1 on; 0: not yet
+	back := make([]int, n) // which one that was met first a way leads to; 0: all of it is known
+	var open []int // those of which not all is known
 	count := 0
 	var visit func(at int)
 	visit = func(at int) {
