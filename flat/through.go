@@ -47,7 +47,7 @@ func rounds(n int, next func(at int, visit func(to int))) []bool {
 	round := make([]bool, n)
 	met := make([]int, n)  // as which one each was met, from 1 on; 0: not yet
 	back := make([]int, n) // which one that was met first a way leads to; 0: all of it is known
-	var open []int // those of which not all is known
+	var open []int         // those of which not all is known
 	count := 0
 	var visit func(at int)
 	visit = func(at int) {
