@@ -155,6 +155,7 @@ func TestInstructions(t *testing.T) {
 
 // P13.2: a reckoning that is the one way, and not the other, wherever it stands: at most four instructions each.
 func TestFewInstructions(t *testing.T) {
+	t.Parallel()
 	for _, name := range []string{"+", "-", "*", "div", "mod", "<", "<=", "=", ">", ">=", "<>"} {
 		e := prim(name, n(0), n(1))
 		for range 5 {

@@ -55,6 +55,7 @@ func (c *chance) fillIn(v reflect.Value, depth int) {
 
 // P5: any programs.
 func TestAnyProgramsEnd(t *testing.T) {
+	t.Parallel()
 	c := &chance{seed: 70}
 	for range 60000 {
 		var p api.FlatProg
@@ -93,6 +94,7 @@ func (c *chance) anyProgram() api.FlatProg {
 
 // P5: any programs of kinds that bind, jump and choose.
 func TestAnyWaysEnd(t *testing.T) {
+	t.Parallel()
 	c := &chance{seed: 71}
 	for range 40000 {
 		answers(t, c.anyProgram())
@@ -163,19 +165,22 @@ func copyOf[E any](x E) E {
 	return c
 }
 
-// cleared makes all parts of a thing's lists zero.
+// cleared makes all parts of a thing's lists zero, those that stand in others first.
 func cleared(x any) {
-	thingsIn(reflect.ValueOf(x).Elem(), func(v reflect.Value) {
+	var all []reflect.Value
+	thingsIn(reflect.ValueOf(x).Elem(), func(v reflect.Value) { all = append(all, v) })
+	for _, v := range slices.Backward(all) {
 		if v.Kind() == reflect.Slice {
 			for i := range v.Len() {
 				v.Index(i).SetZero()
 			}
 		}
-	})
+	}
 }
 
 // Rules 4 and 6: what is handed in is not changed, spare room included, nor shared; the same is answered again.
 func TestAnswersAreNewAndArgumentsStay(t *testing.T) {
+	t.Parallel()
 	g := &maker{chance: chance{seed: 74}}
 	for range 500 {
 		p := copyOf(g.program())

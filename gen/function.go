@@ -66,7 +66,7 @@ func (w *writer) function(p *api.FlatFun) {
 	}
 	f.put(&p.E, goal{answer: true})
 	f.need()
-	if !w.big {
+	if !f.big {
 		blocks := f.settled(params)
 		w.m.Funcs = append(w.m.Funcs, api.Func{Params: params, Result: p.Result, Slots: f.slots, Blocks: blocks})
 	}
@@ -84,11 +84,11 @@ func (f *function) block(sets ...int) *block {
 
 // begin goes on in a block, if anything comes there.
 func (f *function) begin(b *block) {
-	f.now = nil
 	if b.met {
 		b.facts, b.behind = f.facts, len(f.begun)
 		f.begun = append(f.begun, b)
 		f.now = b
+		f.big = f.big || len(f.begun) > api.MaxBlocks
 	}
 }
 
@@ -113,14 +113,19 @@ func (f *function) typeOf(p int) api.Type {
 	return api.Type{}
 }
 
+// count stops what would be too much ahead of writing all of it.
+func (w *writer) count(n int) {
+	w.left -= n
+	w.big = w.big || w.left < 0
+}
+
 // add writes an instruction, if anything comes there.
 func (f *function) add(x api.Instr) {
 	if f.now == nil {
 		return
 	}
 	if x.Op != api.OpMove { // of which it isn't known yet whether it is needed
-		f.left--
-		f.big = f.big || f.left < 0
+		f.count(1)
 	}
 	f.now.code = append(f.now.code, step{Instr: x})
 	leads(&x, func(n int) int {

@@ -178,6 +178,7 @@ func TestMostSlots(t *testing.T) {
 	params := make([]int, api.MaxSlots+1)
 	held(t, "params", basic(numbers, number(0), params[1:]...))
 	refused(t, "params", basic(numbers, number(0), params...))
+	refused(t, "params", basic(numbers, n(299), make([]int, 300)...))
 }
 
 // P13.1: slots are used again: many values, but few at a time.
@@ -197,6 +198,26 @@ func TestSlotsAreUsedAgain(t *testing.T) {
 	}
 }
 
+// P13.3: what is needed in a round is needed all round.
+func TestLiveInRounds(t *testing.T) {
+	blocks := []api.Block{
+		{Code: []api.Instr{{Op: api.OpText, D: 1}, {Op: api.OpConst, D: 2}, {Op: api.OpJump, A: 1}}},
+		{Code: []api.Instr{{Op: api.OpSwitch, A: 2, L: []int{0, 3}, B: 2}}},
+		{Code: []api.Instr{{Op: api.OpText, D: 3}, {Op: api.OpLen, D: 2, A: 3}, {Op: api.OpJump, A: 4}}},
+		{Code: []api.Instr{{Op: api.OpReturn, A: 0}}},
+		{Code: []api.Instr{{Op: api.OpText, D: 3}, {Op: api.OpCat, D: 1, A: 1, B: 3}, {Op: api.OpJump, A: 1}}},
+	}
+	live(blocks)
+	for _, w := range []struct {
+		block, at int
+		want      []int
+	}{{0, 0, []int{0}}, {2, 0, []int{0, 1}}, {4, 0, []int{0, 1, 2}}, {4, 1, []int{0, 2}}} {
+		if x := blocks[w.block].Code[w.at]; !slices.Equal(x.Live, w.want) {
+			t.Error(w, toldInstr(x))
+		}
+	}
+}
+
 // refused looks that a program is too big.
 func refused(t *testing.T, what string, p api.FlatProg) {
 	t.Helper()
@@ -207,6 +228,7 @@ func refused(t *testing.T, what string, p api.FlatProg) {
 
 // P13.1: ErrBig where Check says so: each limit just reached, and passed by one.
 func TestLimits(t *testing.T) {
+	t.Parallel()
 	repeated := func(p *api.FlatProg, n int, f api.FlatFun) {
 		for len(p.Funs) < n {
 			f.Id = 100 + len(p.Funs)
@@ -332,15 +354,15 @@ func TestTooBigIsRefusedSoon(t *testing.T) {
 	for i := range shapes {
 		shapes[i] = i
 	}
-	p.Types[either].Shapes = shapes
 	var arms []api.Arm
 	for i := range shapes {
 		arms = append(arms, arm(int64(i), number(1)))
 	}
-	p.Main = choice(variable(1, either), numbers, arms, arms)
+	p.Main = let(1, call(50, either), choice(variable(1, either), numbers, arms, arms))
+	refused(t, "ways", p)
+	p.Types[either].Shapes = shapes
 	refused(t, "shapes", p)
 	p.Types[either].Shapes = nil
-	refused(t, "ways", p)
 	p.Main = flat1(api.LNew, pairs1, 2, slices.Repeat([]api.Flat{number(1)}, 1<<20)...)
 	refused(t, "parts", p)
 }

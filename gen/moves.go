@@ -36,17 +36,12 @@ func (m *mover) move(from, to int) { m.l = append(m.l, [2]int{from, to}) }
 
 // set sets a slot, if it is to be set, of which nothing needs any more what it is. Where the slot that is read is to be set, too, nothing needs any more what that one is, since from now on it can be read here, and so on.
 func (m *mover) set(slot int) {
-	for {
-		of, waits := m.waits[slot]
-		if !waits {
-			return
-		}
+	for of, waits := m.waits[slot]; waits; of, waits = m.waits[slot] {
 		delete(m.waits, slot)
 		m.move(m.at[of], slot)
-		if _, next := m.waits[of]; !next || m.at[of] != of {
-			return
+		if _, next := m.waits[of]; next {
+			m.at[of] = slot
 		}
-		m.at[of] = slot
 		slot = of
 	}
 }

@@ -136,6 +136,7 @@ func twice(l []int) bool {
 
 // P13.4: all lists of up to four slots, of which none is set twice: as few moves as can be.
 func TestAllShortMoves(t *testing.T) {
+	t.Parallel()
 	rounds := 0
 	for n := range 5 {
 		allLists(n, 5, func(to []int) {
@@ -194,6 +195,7 @@ func TestMoves(t *testing.T) {
 
 // P13.4: long lists, rounds of all lengths, some of whose slots are read once more, and lists of different lengths.
 func TestManyMoves(t *testing.T) {
+	t.Parallel()
 	c := &chance{seed: 1}
 	for range 3000 {
 		n := 1 + c.below(60)
@@ -251,6 +253,7 @@ func TestLongestMoves(t *testing.T) {
 
 // P5, rules 4 and 6: any lists: an end, the same again, in new memory; what is handed in stays.
 func TestAnyMovesEnd(t *testing.T) {
+	t.Parallel()
 	c := &chance{seed: 2}
 	for range 200000 {
 		list := func() []int {

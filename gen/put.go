@@ -85,7 +85,7 @@ func (f *function) into(ty int, g goal) int {
 	return g.place
 }
 
-// done is what happens when a value is at its place.
+// done is what happens when a value is at its place, or the answer where it is.
 func (f *function) done(place int, g goal) {
 	switch {
 	case g.answer:
@@ -99,7 +99,6 @@ func (f *function) variable(e *api.Flat, g goal) {
 	p := f.known(e.Id)
 	if !g.answer {
 		f.add(api.Instr{Op: api.OpMove, D: g.place, A: p})
-		p = g.place
 	}
 	f.done(p, g)
 }

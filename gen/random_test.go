@@ -156,6 +156,7 @@ func (g *maker) turns(vars []int, depth int, shown func(l []int) api.Flat) api.F
 
 // P13.2, P13.4, P13.6: jumps in which values go round.
 func TestJumpsThatTurnValues(t *testing.T) {
+	t.Parallel()
 	g := &maker{chance: chance{seed: 600}}
 	count := map[string]int{}
 	for range 500 {

@@ -67,6 +67,7 @@ func least(t *testing.T, src string, heap, stack int, collect bool) api.Outcome 
 
 // P13.7: memory that isn't needed is free: long runs on little heap, and little stack.
 func TestLittleMemory(t *testing.T) {
+	t.Parallel()
 	const loop = "fun f n = if n = 0 then print \"!\" else "
 	for src, most := range map[string][2]int{
 		loop + "f (n - 1) in f 100000":                                                            {2, 10},
@@ -98,6 +99,7 @@ func TestLittleMemory(t *testing.T) {
 
 // P13.6, P13.7: what is needed is held: too little memory is no memory, whatever was put out till then a beginning.
 func TestTooLittle(t *testing.T) {
+	t.Parallel()
 	src := "fun up (l, n) = if n = 0 then l else (putc (65 + n mod 26); up (n :: l, n - 1)) in up ([], 10000)"
 	for heap := range 1000 {
 		if o := least(t, src, heap, 100, heap%2 == 0); o.Kind != api.NoHeap || len(o.Output) < heap/3 || len(o.Output) > heap {

@@ -10,7 +10,9 @@ import (
 func (f *function) settled(params []int) []api.Block {
 	blocks := make([]api.Block, len(f.begun))
 	for i, b := range f.begun {
-		blocks[i].Code = f.code(b)
+		if blocks[i].Code = f.code(b); f.big {
+			return nil
+		}
 	}
 	for i, b := range f.begun {
 		blocks[i].In = f.in(b)
@@ -23,12 +25,12 @@ func (f *function) settled(params []int) []api.Block {
 // in are the types of slots ahead of a block.
 func (f *function) in(b *block) []int {
 	in := slices.Repeat([]int{none}, f.slots)
-	slots := map[int]int{} // of places of which no more is known
+	slots := map[int]int{}
 	for _, p := range b.needs {
-		slots[p] = f.places[p].slot
+		slots[p] = f.slot(p)
 		in[slots[p]] = f.places[p].ty
 	}
-	for k := b.facts; k != nil && len(slots) > 0; k = k.outer {
+	for k := b.facts; k != nil; k = k.outer {
 		slot, is := slots[k.place]
 		switch {
 		case is && k.shape == none:
@@ -36,7 +38,6 @@ func (f *function) in(b *block) []int {
 		case is:
 			in[slot] = f.aloneOf(k.shape)
 		}
-		delete(slots, k.place)
 	}
 	return in
 }
@@ -73,7 +74,6 @@ func (f *function) slot(p int) int { return f.places[p].slot }
 // use needs a slot.
 func (f *function) use(slot int) int {
 	f.slots = max(f.slots, slot+1)
-	f.big = f.big || f.slots > api.MaxSlots
 	return slot
 }
 
@@ -157,7 +157,9 @@ func (f *function) moves(l []api.Instr, x *step, taken set) []api.Instr {
 		taken.add(slot)
 	}
 	x.L, x.M = nil, nil
-	for _, m := range Moves(from, to, taken.free()) {
+	moves := Moves(from, to, taken.free())
+	f.count(len(moves))
+	for _, m := range moves {
 		l = append(l, api.Instr{Op: api.OpMove, D: f.use(m[1]), A: m[0]})
 	}
 	return l
