@@ -2,6 +2,7 @@ package elab
 
 import (
 	"reflect"
+	"slices"
 	"strings"
 	"testing"
 
@@ -261,6 +262,19 @@ func stays(t *testing.T, v reflect.Value) {
 	})
 }
 
+// cleared makes all parts of a thing's lists zero, those that stand in others first.
+func cleared(x any) {
+	var all []reflect.Value
+	parts(reflect.ValueOf(x).Elem(), func(v reflect.Value) { all = append(all, v) })
+	for _, v := range slices.Backward(all) {
+		if v.Kind() == reflect.Slice {
+			for i := range v.Len() {
+				v.Index(i).SetZero()
+			}
+		}
+	}
+}
+
 // Rules 4 and 6: what is handed in is not changed, spare room included, nor shared; the same is answered again.
 func TestAnswersAreNewAndArgumentsStay(t *testing.T) {
 	g := newMaker(72)
@@ -288,13 +302,7 @@ func TestAnswersAreNewAndArgumentsStay(t *testing.T) {
 		if !reflect.DeepEqual(p, q) {
 			t.Fatal(src, "isn't the same again")
 		}
-		parts(reflect.ValueOf(&q).Elem(), func(v reflect.Value) {
-			if v.Kind() == reflect.Slice {
-				for i := range v.Len() {
-					v.Index(i).SetZero()
-				}
-			}
-		})
+		cleared(&q)
 		if !reflect.DeepEqual(p, kept) || !reflect.DeepEqual(copyOf(e), before) {
 			t.Fatal(src, "shares lists")
 		}

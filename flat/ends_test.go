@@ -3,6 +3,7 @@ package flat
 import (
 	"math"
 	"reflect"
+	"slices"
 	"testing"
 
 	"bellows/api"
@@ -177,6 +178,19 @@ func copyOf[E any](x E) E {
 	return c
 }
 
+// cleared makes all parts of a thing's lists zero, those that stand in others first.
+func cleared(x any) {
+	var all []reflect.Value
+	thingsIn(reflect.ValueOf(x).Elem(), func(v reflect.Value) { all = append(all, v) })
+	for _, v := range slices.Backward(all) {
+		if v.Kind() == reflect.Slice {
+			for i := range v.Len() {
+				v.Index(i).SetZero()
+			}
+		}
+	}
+}
+
 // Rules 4 and 6: what is handed in is not changed, spare room included, nor shared; the same is answered again.
 func TestAnswersAreNewAndArgumentsStay(t *testing.T) {
 	typed(t, 74, 300, func(_ *author, src string, p api.FProg) {
@@ -206,13 +220,7 @@ func TestAnswersAreNewAndArgumentsStay(t *testing.T) {
 			}
 		})
 		for _, other := range []any{&y, &p} {
-			thingsIn(reflect.ValueOf(other).Elem(), func(v reflect.Value) {
-				if v.Kind() == reflect.Slice {
-					for i := range v.Len() {
-						v.Index(i).SetZero()
-					}
-				}
-			})
+			cleared(other)
 			if !reflect.DeepEqual(x, kept) {
 				t.Fatal(src, "shares lists")
 			}

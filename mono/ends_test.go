@@ -3,6 +3,7 @@ package mono
 import (
 	"math"
 	"reflect"
+	"slices"
 	"strings"
 	"testing"
 
@@ -244,6 +245,19 @@ func copyOf[E any](x E) E {
 	return c
 }
 
+// cleared makes all parts of a thing's lists zero, those that stand in others first.
+func cleared(x any) {
+	var all []reflect.Value
+	parts(reflect.ValueOf(x).Elem(), func(v reflect.Value) { all = append(all, v) })
+	for _, v := range slices.Backward(all) {
+		if v.Kind() == reflect.Slice {
+			for i := range v.Len() {
+				v.Index(i).SetZero()
+			}
+		}
+	}
+}
+
 // Rules 4 and 6: what is handed in is not changed, spare room included, nor shared; the same is answered again.
 func TestAnswersAreNewAndArgumentsStay(t *testing.T) {
 	typed(72, 300, func(_ *author, src string, p api.Prog) {
@@ -273,13 +287,7 @@ func TestAnswersAreNewAndArgumentsStay(t *testing.T) {
 			}
 		})
 		for _, x := range []any{&r, &p} {
-			parts(reflect.ValueOf(x).Elem(), func(v reflect.Value) {
-				if v.Kind() == reflect.Slice {
-					for i := range v.Len() {
-						v.Index(i).SetZero()
-					}
-				}
-			})
+			cleared(x)
 			if !reflect.DeepEqual(q, kept) {
 				t.Fatal(src, "shares lists")
 			}
