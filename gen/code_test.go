@@ -126,6 +126,7 @@ func TestInstructions(t *testing.T) {
 		{prim("+", a, raise(b)), "Raise 1"},
 		{let(9, raise(b), prim("putc", a)), "Raise 1"},
 		{handle(9, call(50, numbers, a, b, c, x, y, z, r, o), b), "Call 0 = 0 1 0 (0 1 2 3 4 5 6 7) live (1); Return 0 | Return 1"},
+		{handle(9, call(50, numbers, a, b, c, x, y, z, r, o), a), "Call 0 = 0 1 1 (0 1 2 3 4 5 6 7) live (0); Return 0 | Return 0"}, // what is needed only where it is handled gives its slot to the answer
 		{handle(9, call(50, numbers, a, b, c, x, y, z, r, o), raise(variable(9, thrown1))), "Call 0 = 0 1 0 (0 1 2 3 4 5 6 7) live (); Return 0 | Raise 0"},
 		{let(8, handle(9, call(50, numbers, a, b, c, x, y, z, r, o), b), prim("-", n(8), c)), "Call 0 = 0 1 0 (0 1 2 3 4 5 6 7) live (1 2); Jump 2 | Move 0 = 1; Jump 2 | Prim 0 = 0 2 2; Return 0"},
 		{handle(9, call(50, numbers, a, b, c, x, y, z, r, o), call(50, numbers, b, b, b, x, y, z, r, o)), "Call 0 = 0 1 0 (0 1 2 3 4 5 6 7) live (1 3 4 5 6 7); Return 0 | Tail 0 (1 1 1 3 4 5 6 7)"},
